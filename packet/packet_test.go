@@ -125,7 +125,7 @@ func full(proto byte) api.Packet {
 	return p
 }
 
-// laid is the bytes of full, as they were worked out by hand.
+// laid is the bytes of full, as they were worked out apart from the program.
 func laid(proto byte) []byte {
 	ahead := "\x47\xb8\x00\x29\x12\x34\x40\x00\x3f"
 	behind := "\x0a\x01\x02\x03\xcb\x00\x71\x09\x07\x07\x04\x00\x01\x02\x03\x04"
